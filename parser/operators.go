@@ -45,8 +45,9 @@ func (r *reader) binary(left syntax.Node) syntax.Node {
 	return named(syntax.XInfix, left.At, op, left, right)
 }
 
-// rightOperand reads the right operand of an operator. Behind it no operator
-// of its precedence may stand that associates differently.
+// rightOperand reads the right operand of an operator; if that associates from
+// the right, what stands behind others of its precedence belongs to it. None
+// of them may associate differently.
 func (r *reader) rightOperand(op string) syntax.Node {
 	precedence := tokens.Precedence(op)
 	n := r.infix(precedence + 1)

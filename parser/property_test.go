@@ -240,3 +240,64 @@ func FuzzParse(f *testing.F) {
 		}
 	})
 }
+
+// P3.4: a program in both syntaxes.
+func TestTwoSyntaxes(t *testing.T) {
+	const indented = `
+sealed trait Shape: // a comment
+  def area: Int
+
+case class Rect(w: Int, h: Int) extends Shape:
+  def area = w * h
+enum Opt[+A]:
+  case Some(value: A)
+  case None, Never
+given Ord[Int] = new Ord[Int]:
+  def less(a: Int, b: Int): Boolean = a < b
+extension (a: Int):
+  def twice = a + a
+  private def thrice: Int =
+    val b = twice
+    a + b
+type Elem[X] = X match
+  case Int => String
+  case List[_] => Int
+object Main:
+  def f(s: Shape): Int = s match
+    case Rect(w, h) if w > h =>
+      w
+    case _ => 0
+  def loop(n: Int): Unit =
+    var i = 0
+    while i < n do
+      i += 1
+      if i % 2 == 0 then
+        print(i)
+      else
+        print(-i)
+    for
+      x <- xs
+      if x > 1
+      y = x
+    do
+      print(s"$x and ${y + 1}")
+    try
+      g(x => { x })
+    catch
+      case e: Error => throw e
+    finally
+      return
+`
+	const braces = `sealed trait Shape { def area: Int }; case class Rect(w: Int, h: Int) extends Shape { def area = w * h }
+enum Opt[+A] { case Some(value: A); case None, Never }; given Ord[Int] = new Ord[Int] { def less(a: Int, b: Int): Boolean = a < b }
+extension (a: Int) { def twice = a + a; private def thrice: Int = { val b = twice; a + b } }
+type Elem[X] = X match { case Int => String; case List[_] => Int }
+object Main {
+def f(s: Shape): Int = s match { case Rect(w, h) if w > h => { w } case _ => 0 }
+def loop(n: Int): Unit = { var i = 0; while (i < n) { i += 1; if (i % 2 == 0) { print(i) } else { print(-i) } }
+for { x <- xs; if x > 1; y = x } { print(s"$x and ${y + 1}") }
+try { g(x => { x }) } catch { case e: Error => throw e } finally { return } } }`
+	if !sameTree(t, "unit", indented, braces) {
+		t.Error("a fault")
+	}
+}
