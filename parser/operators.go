@@ -237,8 +237,7 @@ func (r *reader) parentheses(at int) syntax.Node {
 	if r.accept(":") {
 		n = tree(syntax.XTyped, at, n, r.typ())
 	}
-	r.expect(")")
-	return n
+	return r.closed(n, at)
 }
 
 // interpolated reads an interpolated string.

@@ -39,9 +39,7 @@ func (r *reader) onePattern() syntax.Node {
 		if r.accept(")") {
 			return tree(syntax.PLiteral, at, tree(syntax.XUnit, at))
 		}
-		n := r.pattern()
-		r.expect(")")
-		return n
+		return r.closed(r.pattern(), at)
 	}
 	panic(r.stuck())
 }

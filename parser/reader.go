@@ -244,6 +244,14 @@ func enclosed[T any](r *reader, least int, item func() T) []T {
 	return list
 }
 
+// closed reads the end of the parentheses around a node. They belong to its
+// text, so its offset is that of the opening one.
+func (r *reader) closed(n syntax.Node, at int) syntax.Node {
+	r.expect(")")
+	n.At = at
+	return n
+}
+
 // tree makes a node.
 func tree(kind, at int, kids ...syntax.Node) syntax.Node {
 	return syntax.Node{Kind: kind, At: at, Kids: kids}

@@ -89,12 +89,10 @@ func (r *reader) simpleType() syntax.Node {
 
 // bareType reads a simple type without type arguments.
 func (r *reader) bareType() syntax.Node {
-	if r.accept("(") {
-		t := r.typ()
-		r.expect(")")
-		return t
-	}
 	at := r.here()
+	if r.accept("(") {
+		return r.closed(r.typ(), at)
+	}
 	if r.accept("this") {
 		r.expect(".")
 		return r.memberType(tree(syntax.XThis, at))
