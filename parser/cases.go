@@ -8,7 +8,7 @@ func (r *reader) cases() syntax.Node {
 	if r.isOpen() {
 		n.Kids = r.caseList()
 	} else {
-		n.Kids = append(n.Kids, r.oneCase())
+		n.Kids = append(n.Kids, r.oneCase(false))
 	}
 	return n
 }
@@ -16,42 +16,34 @@ func (r *reader) cases() syntax.Node {
 // caseList reads one or more cases from the token that opens a block to the
 // one that closes it. Line ends may stand between them.
 func (r *reader) caseList() []syntax.Node {
+	made := r.choices.made
 	r.take()
 	r.skipLines()
 	var list []syntax.Node
 	for len(list) == 0 || !r.isClose(r.next) {
-		list = append(list, r.oneCase())
+		list = append(list, r.oneCase(true))
 		r.skipLines()
 	}
 	r.take()
+	r.choices.settle(made)
 	return list
 }
 
-func (r *reader) oneCase() syntax.Node {
+// oneCase reads a case, which stands in a list of them, or alone.
+func (r *reader) oneCase(inList bool) syntax.Node {
 	at := r.here()
 	r.expect("case")
 	pattern := r.pattern()
-	guard := r.none()
 	if r.accept("if") {
-		guard = r.guard()
+		return r.guardedCase(at, pattern, inList)
 	}
-	r.expect("=>")
-	return tree(syntax.SCase, at, pattern, guard, r.caseBody())
+	guard := r.none()
+	return tree(syntax.SCase, at, pattern, guard, r.bodyBehindArrow())
 }
 
-// guard reads the guard of a case. The first => outside of brackets stands
-// behind it: it makes no lambda of a guard that is a name or in parentheses.
-func (r *reader) guard() syntax.Node {
-	for i := r.next; i < len(r.list) && !closes(r.list[i]); i++ {
-		if r.isAt(i, "=>") {
-			r.arrows[i] = true
-			break
-		}
-		if r.partner[i] > 0 {
-			i = r.partner[i]
-		}
-	}
-	return r.expr()
+func (r *reader) bodyBehindArrow() syntax.Node {
+	r.expect("=>")
+	return r.caseBody()
 }
 
 // caseBody reads the body of a case: a block that is all of it, or statements.

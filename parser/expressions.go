@@ -10,9 +10,10 @@ func (r *reader) expr() syntax.Node {
 }
 
 func (r *reader) anyExpr() syntax.Node {
+	if arrow := r.lambdaArrow(); arrow > 0 {
+		return r.lambda(arrow)
+	}
 	switch {
-	case r.isLambda():
-		return r.lambda()
 	case r.is("if"):
 		return r.ifExpr()
 	case r.is("while"):
@@ -52,18 +53,30 @@ func (r *reader) beginsExpr(index int) bool {
 	return false
 }
 
-// isLambda reports whether a lambda comes next.
-func (r *reader) isLambda() bool {
+// lambdaArrow returns the index of the => of a lambda that may come next, or 0
+// if none comes.
+func (r *reader) lambdaArrow() int {
 	arrow := r.next + 1
-	if r.is("(") {
+	switch {
+	case r.is("_"):
+		return arrow
+	case r.is("("):
 		arrow = r.partner[r.next] + 1
-	} else if !r.is("_") && r.token().Kind != tokens.Name {
-		return false
+	case r.token().Kind != tokens.Name:
+		return 0
 	}
-	return (r.is("_") || r.isAt(arrow, "=>")) && !r.arrows[arrow]
+	if r.isAt(arrow, "=>") {
+		return arrow
+	}
+	return 0
 }
 
-func (r *reader) lambda() syntax.Node {
+// lambda reads a lambda, or what looks like its parameters, if the => behind
+// that ends a guard.
+func (r *reader) lambda(arrow int) syntax.Node {
+	if r.endsGuard(arrow) {
+		return r.assignment()
+	}
 	at := r.here()
 	var kids []syntax.Node
 	if r.accept("(") {
@@ -119,7 +132,7 @@ func (r *reader) condition(keyword string) syntax.Node {
 		r.accept(keyword)
 		return n
 	}
-	n := r.expr()
+	n := withinGuard(r, r.expr)
 	r.expect(keyword)
 	return n
 }
@@ -155,7 +168,7 @@ func (r *reader) forExpr() syntax.Node {
 		r.expect(")")
 	default:
 		inBrackets = false
-		n.Kids = r.enumerators()
+		n.Kids = withinGuard(r, r.enumerators)
 	}
 	switch {
 	case r.accept("yield"):

@@ -162,7 +162,7 @@ a match { case b => 1 ^=> }
 a match { case b => c => ^}
 a match { case b => case ^class C }
 try a catch case b if c^
-a match { case b if ^_ => c }
+a match { case b if _ => c ^}
 a match { case b if ^=> c }
 a match¶  case b =>¶    c¶  ^d
 a match { case b => c } ^b
@@ -293,7 +293,7 @@ a ^* b
 `
 
 func TestSyntaxFaults(t *testing.T) {
-	for kind, table := range map[string]string{"unit": unitFaults, "expr": exprFaults, "type": typeFaults, "pattern": patternFaults} {
+	for kind, table := range map[string]string{"unit": unitFaults, "expr": exprFaults + guardFaults[1:], "type": typeFaults, "pattern": patternFaults} {
 		for _, marked := range strings.Split(strings.Trim(table, "\n"), "\n") {
 			marked = strings.ReplaceAll(marked, "¶", "\n")
 			text := strings.Replace(marked, "^", "", 1)

@@ -1,6 +1,7 @@
 package parser_test
 
 import (
+	"slices"
 	"strconv"
 	"strings"
 
@@ -10,6 +11,10 @@ import (
 // rules is the grammar of the chapter: "x" is a Key, Mark or Op, a word of
 // capitals a token of a class, "x % y" one or more x with y between, and &x a
 // condition on the token that comes next.
+//
+// Each rule with an x' has a second form, for what stands at the end of a
+// guard, where an => may follow: in this form x' is the second form of x, in
+// the first one it is x. x! is the second form everywhere.
 const rules = `
 unit = [ nl ] [ definition % nl ] [ nl ] STOP
 oneexpr = [ nl ] expr [ nl ] STOP
@@ -20,7 +25,7 @@ open = "{" | INDENT
 close = "}" | OUTDENT
 import = "import" NAME { "." NAME } [ "." "*" ]
 mods = { &fresh MOD }
-definition = import | mods class | mods def | mods val | mods typedef | mods given | extension
+definition = import | mods class | mods def' | mods val' | mods typedef' | mods given' | extension'
 class = [ "case" ] "class" NAME tparams lists parents [ body ] | "trait" NAME tparams lists parents [ body ] | [ "case" ] "object" NAME parents [ body ] | "enum" NAME tparams lists parents enumbody
 body = "{" [ nl ] [ statement % nl ] [ nl ] "}" | ":" INDENT [ nl ] [ statement % nl ] [ nl ] OUTDENT
 enumbody = "{" [ nl ] [ enumstatement % nl ] [ nl ] "}" | ":" INDENT [ nl ] [ enumstatement % nl ] [ nl ] OUTDENT
@@ -28,41 +33,43 @@ enumstatement = statement | "case" NAME tparams lists parents | "case" NAME % ",
 parents = [ "extends" parent % parentsep ]
 parentsep = "with" | ","
 parent = simpletype [ "(" [ expr % "," ] ")" ]
-def = "def" id tparams lists [ ":" type ] [ "=" expr ]
+def = "def" id tparams lists [ ":" type' ] [ "=" expr' ]
 id = NAME | OP
-val = [ "lazy" ] "val" NAME [ ":" type ] [ "=" expr ] | "var" NAME [ ":" type ] [ "=" expr ]
-typedef = "type" NAME tparams [ ">:" type ] [ "<:" type ] | "type" NAME tparams "=" type
-given = "given" &namedgiven NAME tparams lists ":" type "=" expr | "given" &baregiven type "=" expr
-extension = "extension" tparams "(" param ")" ( extdef | "{" [ nl ] extdef % nl [ nl ] "}" | ":" INDENT [ nl ] extdef % nl [ nl ] OUTDENT )
-extdef = mods def
+val = [ "lazy" ] "val" NAME [ ":" type' ] [ "=" expr' ] | "var" NAME [ ":" type' ] [ "=" expr' ]
+typedef = "type" NAME tparams [ ">:" type' ] [ "<:" type' ] | "type" NAME tparams "=" type'
+given = "given" &namedgiven NAME tparams lists ":" type "=" expr' | "given" &baregiven type "=" expr'
+extension = "extension" tparams "(" param ")" ( extdef' | "{" [ nl ] extdef % nl [ nl ] "}" | ":" INDENT [ nl ] extdef % nl [ nl ] OUTDENT )
+extdef = mods def'
 tparams = [ "[" tparam % "," "]" ]
 tparam = [ "+" | "-" ] NAME [ "[" "_" % "," "]" ] [ ">:" type ] [ "<:" type ]
 lists = { "(" [ "using" ] [ param % "," ] ")" }
 param = mods [ "val" | "var" ] NAME ":" ( "=>" type | type [ "*" ] ) [ "=" expr ]
 type = "[" tparam % "," "]" "=>>" type | &arrow "(" [ type % "," ] ")" "=>" type | &noarrow ortype [ "=>" type ] | &noarrow ortype "match" open [ nl ] tcase % nl [ nl ] close
+type' = "[" tparam % "," "]" "=>>" type' | &arrow "(" [ type % "," ] ")" "=>" type' | ortype [ "=>" type' ] | ortype "match" open [ nl ] tcase % nl [ nl ] close
 tcase = "case" ortype "=>" type
 ortype = andtype % "|"
 andtype = simpletype % "&"
 simpletype = ( "(" type ")" | [ "this" "." ] NAME { "." NAME } [ "." "type" ] | "this" "." "type" ) { "[" typearg % "," "]" }
 typearg = "_" [ ">:" type ] [ "<:" type ] | type
-statement = definition | expr
+statement = definition' | expr'
 block = open [ nl ] [ statement % nl ] [ nl ] close
 expr = &lambda lambda | &nolambda otherexpr
-otherexpr = ifexpr | "while" whilepart | for | "try" expr [ [ nl ] "catch" cases ] [ [ nl ] "finally" expr ] | "throw" expr | "return" &noexpr | "return" expr | operation [ "=" expr | ASSIGN expr ]
-ifexpr = "if" ifpart [ [ nl ] "else" expr ]
-ifpart = "(" expr ")" [ "then" ] expr | &noparen expr "then" expr
-whilepart = "(" expr ")" [ "do" ] expr | &noparen expr "do" expr
-lambda = NAME "=>" expr | "_" "=>" expr | "(" [ lparam % "," ] ")" "=>" expr
+expr' = &lambda lambda' | otherexpr'
+otherexpr = ifexpr' | "while" whilepart' | for' | "try" expr' [ [ nl ] "catch" cases' ] [ [ nl ] "finally" expr' ] | "throw" expr' | "return" &noexpr | "return" expr' | operation [ "=" expr' | ASSIGN expr' ]
+ifexpr = "if" ifpart' [ [ nl ] "else" expr' ]
+ifpart = "(" expr ")" [ "then" ] expr' | &noparen expr "then" expr'
+whilepart = "(" expr ")" [ "do" ] expr' | &noparen expr "do" expr'
+lambda = NAME "=>" expr' | "_" "=>" expr' | "(" [ lparam % "," ] ")" "=>" expr'
 lparam = ( NAME | "_" ) [ ":" ortype ]
-for = "for" ( "{" enums "}" | "(" enums ")" | enums ) ( "yield" expr | "do" expr ) | "for" ( "{" enums "}" | "(" enums ")" ) expr
+for = "for" ( "{" enums "}" | "(" enums ")" | enums ) ( "yield" expr' | "do" expr' ) | "for" ( "{" enums "}" | "(" enums ")" ) expr'
 enums = [ nl ] generator { nl enum | "if" expr } [ nl ]
 generator = pattern "<-" expr
 enum = generator | pattern "=" expr | "if" expr
-cases = caselist | case
+cases = caselist | case'
 caselist = open [ nl ] case { [ nl ] case } [ nl ] close
-case = "case" pattern [ "if" &guard expr ] "=>" casebody
-casebody = &wholeblock block | &nowholeblock casestatement % nl &bodyend | &nowholeblock &nostatement
-casestatement = &nocase statement
+case = "case" pattern [ "if" expr! ] "=>" casebody'
+casebody = &wholeblock block | &nowholeblock casestatement' % nl &bodyend | &nowholeblock &nostatement
+casestatement = &nocase statement'
 operation = infix { "match" caselist }
 infix = prefix { INFIX prefix }
 prefix = PREFIX prefix | simple
@@ -79,17 +86,41 @@ onepattern = "_" [ ":" ortype ] | INT | LONG | CHAR | STRING | "true" | "false" 
 type grammar map[string][][]string
 
 // readGrammar makes plain alternatives of rules: brackets become rules of
-// their own.
+// their own. A second form may stand in a line of its own.
 func readGrammar(text string) grammar {
 	g := grammar{}
 	for _, line := range strings.Split(strings.TrimSpace(text), "\n") {
 		words := strings.Fields(line)
-		rest := g.alternatives(words[0], words[2:])
-		if len(rest) != 0 {
-			panic(line)
+		name := words[0]
+		first, second := forms(words[2:])
+		if strings.HasSuffix(name, "'") {
+			g.alternatives(name, second)
+			continue
+		}
+		g.alternatives(name, first)
+		if !slices.Equal(first, second) {
+			g.alternatives(name+"'", second)
 		}
 	}
 	return g
+}
+
+// forms returns the words of both forms of a rule.
+func forms(words []string) (first, second []string) {
+	for _, w := range words {
+		a, b := w, w
+		if w[0] != '"' {
+			if inGuard, ok := strings.CutSuffix(w, "!"); ok {
+				a, b = inGuard+"'", inGuard+"'"
+			}
+			if plain, ok := strings.CutSuffix(w, "'"); ok {
+				a = plain
+			}
+		}
+		first = append(first, a)
+		second = append(second, b)
+	}
+	return first, second
 }
 
 // alternatives reads words up to the end of a bracket.
@@ -141,12 +172,11 @@ type recognizer struct {
 	list []tokens.Token
 	sets [][]place
 	seen map[place]bool
-	ends map[int]bool // the tokens => that end guards
 }
 
 // fault returns the index of the token at which no rule goes on, or -1.
 func (g grammar) fault(start string, list []tokens.Token) int {
-	r := recognizer{g: g, list: list, ends: map[int]bool{}}
+	r := recognizer{g: g, list: list}
 	r.open()
 	r.start(start)
 	for i := range list {
@@ -280,12 +310,9 @@ func (r *recognizer) holds(index int, condition string) bool {
 		if is(index, `"("`) {
 			i = r.behind(index)
 		}
-		return is(index, "NAME", `"_"`, `"("`) && (is(i, `"=>"`) || is(index, `"_"`)) && !r.ends[i]
+		return is(index, "NAME", `"_"`, `"("`) && (is(i, `"=>"`) || is(index, `"_"`))
 	case "&nolambda":
 		return !r.holds(index, "&lambda")
-	case "&guard":
-		r.ends[r.arrow(index)] = true
-		return true
 	case "&noexpr":
 		return !begins(t)
 	case "&nostatement":
@@ -318,21 +345,6 @@ func (r *recognizer) holds(index int, condition string) bool {
 		return !r.holds(index, "&wholeblock")
 	}
 	panic(condition)
-}
-
-// arrow returns the index of the first => outside of brackets, or -1.
-func (r *recognizer) arrow(index int) int {
-	for index < len(r.list) && !matches(r.list[index], `"=>"`) {
-		switch t := r.list[index]; {
-		case t.Kind == tokens.Outdent || t.Kind == tokens.Mark && strings.Contains(") ] }", t.Text):
-			return -1
-		case t.Kind == tokens.Indent || t.Kind == tokens.Mark && strings.Contains("( [ { '{ ${", t.Text):
-			index = r.behind(index)
-		default:
-			index++
-		}
-	}
-	return index
 }
 
 // begins reports whether an expression can begin with a token.

@@ -3,7 +3,6 @@ package parser
 import (
 	"strings"
 
-	"newel/api"
 	"newel/syntax"
 	"newel/tokens"
 )
@@ -95,19 +94,13 @@ func (r *reader) patternType() syntax.Node {
 
 // typeAlternative reads | and the type behind it. It goes back if there is
 // none, or a name with which a pattern begins.
-func (r *reader) typeAlternative() (t syntax.Node, ok bool) {
-	from, depth := r.next, r.depth
-	defer func() {
-		f, failed := recover().(api.Fault)
-		if failed && f.Code != api.ErrSyntax {
-			panic(f)
+func (r *reader) typeAlternative() (syntax.Node, bool) {
+	return attempt(r, func() syntax.Node {
+		r.take()
+		t := r.andType()
+		if r.is("(") || r.is("@") || r.is(":") {
+			panic(r.stuck())
 		}
-		if failed || r.is("(") || r.is("@") || r.is(":") {
-			r.giveUp(r.next)
-			r.next, r.depth, r.tooDeep = from, depth, false
-			t, ok = syntax.Node{}, false
-		}
-	}()
-	r.take()
-	return r.andType(), true
+		return t
+	})
 }

@@ -223,7 +223,7 @@ func mixed(list []tokens.Token) bool {
 // FuzzParse checks that no text makes a function panic or return a tree that
 // is not right, and that short texts have their faults where the grammar says.
 func FuzzParse(f *testing.F) {
-	for _, table := range []string{definitionTrees, typeTrees, exprTrees, caseTrees, patternTrees} {
+	for _, table := range []string{definitionTrees, typeTrees, exprTrees, caseTrees, guardTrees, patternTrees} {
 		for i, line := range strings.Split(table, "\n") {
 			if _, text, ok := strings.Cut(line, " "); ok && !strings.HasPrefix(line, "\t") {
 				f.Add(i, strings.ReplaceAll(text, "¶", "\n"))

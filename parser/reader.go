@@ -11,31 +11,43 @@ const maxNested = 100 // others in which a type, expression, pattern or statemen
 // reader reads trees off a list of tokens with layout. Each rule of the
 // grammar is a method; at a fault it panics with an api.Fault.
 type reader struct {
-	list    []tokens.Token // the last one is Stop
-	partner []int          // of a token that opens a bracket or an indentation: the index of its end
-	next    int            // the index of the token at hand
-	reach   int            // the index of the last token up to which a rule that was given up went on
-	depth   int            // how many rules that count are being read
-	tooDeep bool           // whether the token at hand is the first one of what is nested too deeply
-	arrows  map[int]bool   // the indices of => that stand behind a guard
+	list      []tokens.Token // the last one is Stop
+	partner   []int          // of a token that opens a bracket or an indentation: the index of its end
+	level     []int          // of each token: how many brackets and indentations it stands in
+	next      int            // the index of the token at hand
+	far       int            // the index of the last token up to which a rule that was given up went on
+	tooDeepAt int            // the index of the first token that was nested too deeply, or 0
+	depth     int            // how many rules that count are being read
+	tooDeep   bool           // whether the token at hand is the first one of what is nested too deeply
+
+	choices    *choices             // those of the rules that are being read
+	guardLevel int                  // the level of the guard that an => may end, or noGuard
+	known      map[guardPlace][]way // the ways to read cases from their guards on
 }
 
-// partners finds the ends of brackets and indentations. Layer 1 has seen to it
-// that they match.
-func partners(list []tokens.Token) []int {
-	ends := make([]int, len(list))
+func newReader(list []tokens.Token) *reader {
+	partner, level := brackets(list)
+	return &reader{list: list, partner: partner, level: level, guardLevel: noGuard, known: map[guardPlace][]way{}}
+}
+
+// brackets finds the ends of brackets and indentations, and how many of them
+// each token stands in. Layer 1 has seen to it that they match.
+func brackets(list []tokens.Token) (partner, level []int) {
+	partner = make([]int, len(list))
+	level = make([]int, len(list))
 	var open []int
 	for i, t := range list {
-		switch {
-		case opens(t):
-			open = append(open, i)
-		case closes(t):
+		if closes(t) {
 			last := len(open) - 1
-			ends[open[last]] = i
+			partner[open[last]] = i
 			open = open[:last]
 		}
+		level[i] = len(open)
+		if opens(t) {
+			open = append(open, i)
+		}
 	}
-	return ends
+	return partner, level
 }
 
 func opens(t tokens.Token) bool {
@@ -73,15 +85,20 @@ func (r *reader) here() int {
 }
 
 // stuck is the fault that no rule goes on with the token at hand, or with a
-// later one, up to which a rule went on that was given up.
+// later one, up to which a rule went on that was given up; or that a rule could
+// go on, but is nested too deeply.
 func (r *reader) stuck() api.Fault {
-	return api.Fault{At: r.at(max(r.next, r.reach)).At, Code: api.ErrSyntax}
+	r.giveUp(r.next)
+	if r.tooDeepAt > 0 {
+		return api.Fault{At: r.at(r.tooDeepAt).At, Code: api.ErrDepth}
+	}
+	return api.Fault{At: r.at(r.far).At, Code: api.ErrSyntax}
 }
 
 // giveUp leaves what stands in front of a token, with which a rule does not go
 // on, for the rules around.
 func (r *reader) giveUp(index int) {
-	r.reach = max(r.reach, index)
+	r.far = max(r.far, index)
 }
 
 // isAt reports whether a token is a keyword, mark or operator with a text.
@@ -102,7 +119,10 @@ func (r *reader) is(text string) bool {
 func (r *reader) take() tokens.Token {
 	t := r.token()
 	if r.tooDeep {
-		panic(api.Fault{At: t.At, Code: api.ErrDepth})
+		if r.tooDeepAt == 0 || r.next < r.tooDeepAt {
+			r.tooDeepAt = r.next
+		}
+		panic(r.stuck())
 	}
 	r.next++
 	return t
@@ -233,14 +253,16 @@ func lines[T any](r *reader, least int, item func() T) []T {
 }
 
 // enclosed reads lines from the token that opens them to the one that closes
-// them.
+// them. The choices in them matter for nothing behind them.
 func enclosed[T any](r *reader, least int, item func() T) []T {
+	made := r.choices.made
 	r.take()
 	list := lines(r, least, item)
 	if !r.isClose(r.next) {
 		panic(r.stuck())
 	}
 	r.take()
+	r.choices.settle(made)
 	return list
 }
 

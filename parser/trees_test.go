@@ -571,7 +571,7 @@ pattern (A) | (_)
 `
 
 func TestTrees(t *testing.T) {
-	for _, table := range []string{definitionTrees, typeTrees, exprTrees, caseTrees, patternTrees} {
+	for _, table := range []string{definitionTrees, typeTrees, exprTrees, caseTrees, guardTrees, patternTrees} {
 		lines := strings.Split(strings.Trim(table, "\n"), "\n")
 		for i := 0; i < len(lines); i += 2 {
 			rule, text, _ := strings.Cut(strings.ReplaceAll(lines[i], "¶", "\n"), " ")

@@ -18,6 +18,8 @@ func (r *reader) anyType() syntax.Node {
 	}
 	t := r.orType()
 	switch {
+	case r.endsGuard(r.next):
+		return t
 	case r.accept("=>"):
 		return tree(syntax.TFunction, t.At, t, r.typ())
 	case r.accept("match"):
@@ -32,8 +34,12 @@ func (r *reader) typeLambda() syntax.Node {
 	return tree(syntax.TLambda, names.At, names, r.typ())
 }
 
-// functionType reads the type of functions with parameters in parentheses.
+// functionType reads the type of functions with parameters in parentheses, or
+// a type in parentheses, if the => behind it ends a guard.
 func (r *reader) functionType() syntax.Node {
+	if r.endsGuard(r.partner[r.next] + 1) {
+		return r.orType()
+	}
 	at := r.take().At
 	kids := upTo(r, r.typ, ")")
 	r.expect("=>")
